@@ -1,0 +1,1 @@
+"""Surenear: nearest records from shards that need not be trusted."""

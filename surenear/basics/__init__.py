@@ -1,0 +1,1 @@
+"""Numbers, orders, letters and values: what all other parts rest on."""

@@ -1,0 +1,1 @@
+"""Schemas, records and marks."""
