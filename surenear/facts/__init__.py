@@ -1,0 +1,1 @@
+"""Facts about records, and what they tell."""

@@ -1,0 +1,1 @@
+"""Filters: their tokens, their conditions and how they are read."""

@@ -1,0 +1,1 @@
+"""Regions and partitions."""

@@ -1,0 +1,102 @@
+"""The interface: names, arguments, and where classes and functions are defined."""
+
+import importlib
+import inspect
+import unittest
+
+# Of each module the functions with their arguments, and of each class the arguments and
+# the methods that stand in the class itself.
+FUNCTIONS = {
+    "surenear.basics.numbers": {
+        "root": "(number)", "inner": "(a, b)", "distance": "(a, b)", "differing": "(a, b)", "norm": "(a)",
+        "gap": "(far, near)", "split": "(d, e, f)",
+    },
+    "surenear.records.marks": {
+        "row_of": "(number, record)", "check_key": "(key)", "mark_of": "(key, number, record)",
+    },
+    "surenear.filters.tokens": {"read_tokens": "(text)"},
+    "surenear.filters.reading": {"read_filter": "(schema, text)"},
+    "surenear.regions.region": {
+        "is_partition": "(regions)", "way_up": "(regions, place)", "lies_in": "(regions, place, other)",
+        "facts_at": "(regions, place)", "tops": "(regions)",
+    },
+}
+CLASSES = {
+    "surenear.errors": {"InvalidFilter": ("(fault, place)", {})},
+    "surenear.basics.ranks": {
+        "Rank": ("(cost, name)", {"before": "(self, other)", "__eq__": None, "pair": None}),
+    },
+    "surenear.records.schema": {
+        "Schema": ("(size, *, width='small', measure='square', fields=())", {
+            "kind_of": "(self, name)", "far": "(self, a, b)", "check": "(self, record)", "__contains__": None,
+            "__eq__": None, "least": None, "greatest": None,
+        }),
+    },
+    "surenear.records.record": {
+        "Record": ("(name, vector, *, fields=(), words=())", {
+            "value": "(self, name)", "count_of": "(self, word)", "__eq__": None,
+        }),
+    },
+    "surenear.filters.tokens": {"Token": ("(kind, value, place)", {"__eq__": None})},
+    "surenear.filters.conditions": {
+        "Condition": ("()", {"__and__": None, "__or__": None, "__invert__": None, "__eq__": None, "__str__": None}),
+        "Every": ("()", {"passes": "(self, record)"}),
+        "Has": ("(field)", {"passes": "(self, record)"}),
+        "Compare": ("(field, sign, value)", {"passes": "(self, record)"}),
+        "OneOf": ("(field, choices)", {"passes": "(self, record)"}),
+        "Both": ("(a, b)", {"passes": "(self, record)"}),
+        "Either": ("(a, b)", {"passes": "(self, record)"}),
+        "Negation": ("(a)", {"passes": "(self, record)"}),
+    },
+    "surenear.facts.fact": {
+        "Fact": ("()", {
+            "holds": "(self, record)", "least_distance": "(self, q)", "least_differing": "(self, q)",
+            "most_product": "(self, q)", "count_bound": "(self, word)", "name_bound": "(self)",
+            "outcomes": "(self, condition)",
+        }),
+    },
+    "surenear.facts.vectors": {
+        "Part": ("(start, centre, radius)", {"after": None, "__eq__": None}),
+        "Parts": ("(parts)", {"holds": "(self, record)", "least_distance": "(self, q)", "most_product": "(self, q)"}),
+        "Cell": ("(near, rival)", {"holds": "(self, record)", "least_distance": "(self, q)"}),
+        "Box": ("(low, high)", {"holds": "(self, record)", "least_distance": "(self, q)", "most_product": "(self, q)"}),
+        "Norms": ("(low, high)", {"holds": "(self, record)", "least_distance": "(self, q)", "most_product": "(self, q)"}),
+        "Differ": ("(centre, most)", {"holds": "(self, record)", "least_differing": "(self, q)"}),
+    },
+    "surenear.facts.contents": {
+        "Range": ("(field, low, high, *, lack='nobody')", {"holds": "(self, record)", "outcomes": "(self, condition)"}),
+        "Values": ("(field, choices, *, lack='nobody')", {"holds": "(self, record)", "outcomes": "(self, condition)"}),
+        "Counts": ("(words)", {"holds": "(self, record)", "count_bound": "(self, word)"}),
+        "Names": ("(low, high)", {"holds": "(self, record)", "name_bound": "(self)"}),
+    },
+    "surenear.regions.region": {"Region": ("(parent, facts)", {"__eq__": None})},
+}
+
+
+class InterfaceTest(unittest.TestCase):
+    def test_functions(self):
+        for module, functions in FUNCTIONS.items():
+            for name, arguments in functions.items():
+                with self.subTest(module=module, name=name):
+                    function = getattr(importlib.import_module(module), name)
+                    self.assertEqual(function.__module__, module)
+                    self.assertEqual(str(inspect.signature(function)), arguments)
+
+    def test_classes(self):
+        for module, classes in CLASSES.items():
+            for name, (arguments, methods) in classes.items():
+                with self.subTest(module=module, name=name):
+                    found = getattr(importlib.import_module(module), name)
+                    self.assertEqual(found.__module__, module)
+                    if arguments != "()":
+                        self.assertEqual(str(inspect.signature(found)), arguments)
+                    else:
+                        found()
+                    for method, told in methods.items():
+                        self.assertIn(method, vars(found))
+                        if told is not None:
+                            self.assertEqual(str(inspect.signature(vars(found)[method])), told)
+
+
+if __name__ == "__main__":
+    unittest.main()
