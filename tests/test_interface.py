@@ -20,6 +20,13 @@ FUNCTIONS = {
         "is_partition": "(regions)", "way_up": "(regions, place)", "lies_in": "(regions, place, other)",
         "facts_at": "(regions, place)", "tops": "(regions)",
     },
+    "surenear.facts.bounds": {"can_pass": "(condition, facts)", "bound_of": "(question, facts)"},
+    "surenear.codes.writing": {
+        "list_code": "(codes)", "string_code": "(text)", "value_code": "(worth)", "maybe_code": "(code)",
+        "numbers_code": "(numbers)", "record_code": "(record)", "fact_code": "(fact)", "region_code": "(region)",
+        "partition_code": "(regions)", "entry_code": "(entry)", "offer_code": "(offer)",
+    },
+    "surenear.codes.reading": {"read_record": "(numbers)", "read_offer": "(numbers)"},
 }
 CLASSES = {
     "surenear.errors": {"InvalidFilter": ("(fault, place)", {})},
@@ -70,6 +77,26 @@ CLASSES = {
         "Names": ("(low, high)", {"holds": "(self, record)", "name_bound": "(self)"}),
     },
     "surenear.regions.region": {"Region": ("(parent, facts)", {"__eq__": None})},
+    "surenear.costs.query": {"Query": ("(vector, *, near=1, words=(), text='every', most=1)", {"__eq__": None})},
+    "surenear.costs.question": {
+        "Question": ("(schema, query)", {
+            "passes": "(self, record)", "cost": "(self, record)", "rank": "(self, record)", "first": "(self, records)",
+        }),
+    },
+    "surenear.facts.bounds": {"Bound": ("(cost, name, can)", {"__eq__": None})},
+    "surenear.regions.offer": {
+        "Entry": ("(number, record, leaves)", {"__eq__": None}),
+        "Offer": ("(partitions, entries)", {
+            "__eq__": None, "sound": None, "write_numbers": None, "below": "(self, k, place)",
+        }),
+    },
+    "surenear.codes.reading": {
+        "NumberReader": ("(numbers)", {
+            "take": "(self)", "size": "(self)", "string": "(self)", "value": "(self)", "integers": "(self)",
+            "present": "(self)", "record": "(self)", "fact": "(self)", "region": "(self)", "partition": "(self)",
+            "entry": "(self)", "offer": "(self)", "finish": "(self)",
+        }),
+    },
 }
 
 

@@ -1,0 +1,1 @@
+"""Codes: how values are written as numbers, and read."""

@@ -1,0 +1,1 @@
+"""Queries, and what records cost."""
