@@ -27,6 +27,13 @@ FUNCTIONS = {
         "partition_code": "(regions)", "entry_code": "(entry)", "offer_code": "(offer)",
     },
     "surenear.codes.reading": {"read_record": "(numbers)", "read_offer": "(numbers)"},
+    "surenear.building.training": {"nearest": "(centres, vector)", "train": "(vectors, number, rounds)"},
+    "surenear.building.layouts": {"block_layout": "(order, size)"},
+    "surenear.building.facts": {"facts_of": "(schema, kinds, sketch, records)"},
+    "surenear.building.build": {
+        "build": "(schema, rule, kinds, records)", "build_offer": "(schema, rules, kinds, numbered)",
+    },
+    "surenear.search.answers": {"at_most": "(a, b)", "answer_of": "(question, pairs, regions)"},
 }
 CLASSES = {
     "surenear.errors": {"InvalidFilter": ("(fault, place)", {})},
@@ -97,6 +104,20 @@ CLASSES = {
             "entry": "(self)", "offer": "(self)", "finish": "(self)",
         }),
     },
+    "surenear.building.layouts": {
+        "Sketch": ("(parent, *, centres=(), cells=())", {}), "Layout": ("(sketches, leaves)", {}),
+    },
+    "surenear.building.rules": {
+        "Blocks": ("(size)", {"layout": "(self, schema, records)"}),
+        "SortedBlocks": ("(field, size)", {"layout": "(self, schema, records)"}),
+        "Lists": ("(centres, *, rounds=0, cells=0, size=1)", {"layout": "(self, schema, records)"}),
+        "Codes": ("(parts, *, centres, rounds=0)", {"layout": "(self, schema, records)"}),
+        "Net": ("(layers)", {"layout": "(self, schema, records)"}),
+    },
+    "surenear.search.answers": {
+        "Hit": ("(name, number, cost)", {"__eq__": None}), "Answer": ("(hits, bound, exact)", {"__eq__": None}),
+    },
+    "surenear.search.report": {"ReportPart": ("(segment, partition, left, numbers, records)", {"__eq__": None})},
 }
 
 

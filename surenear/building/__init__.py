@@ -1,0 +1,1 @@
+"""Building partitions: layouts, rules, and the facts of regions."""

@@ -1,0 +1,1 @@
+"""Answers, searches and reports."""
