@@ -34,6 +34,11 @@ FUNCTIONS = {
         "build": "(schema, rule, kinds, records)", "build_offer": "(schema, rules, kinds, numbered)",
     },
     "surenear.search.answers": {"at_most": "(a, b)", "answer_of": "(question, pairs, regions)"},
+    "surenear.reports.reckoning": {
+        "part_fits": "(ledger, moment, part)", "is_possible": "(ledger, moment, report)",
+        "reckon": "(ledger, question, moment, report)",
+    },
+    "surenear.disks.blocks": {"sum_of": "(numbers)", "block_of": "(numbers)", "read_blocks": "(numbers)"},
 }
 CLASSES = {
     "surenear.errors": {"InvalidFilter": ("(fault, place)", {})},
@@ -118,6 +123,27 @@ CLASSES = {
         "Hit": ("(name, number, cost)", {"__eq__": None}), "Answer": ("(hits, bound, exact)", {"__eq__": None}),
     },
     "surenear.search.report": {"ReportPart": ("(segment, partition, left, numbers, records)", {"__eq__": None})},
+    "surenear.search.search": {
+        "Source": ("(segment, partition, regions, entries)", {}),
+        "Search": ("(question, sources, *, walk=0)", {
+            "run": "(self, steps)", "answer": "(self)", "report": "(self)", "ended": "(self)",
+        }),
+    },
+    "surenear.ledger.note": {
+        "Note": ("(name, number, mark, *, died=None, record=None, segment=None, leaves=())", {
+            "lives_at": "(self, moment)", "matches": "(self, key, number, record)", "__eq__": None,
+        }),
+        "Segment": ("(number, shard, partitions)", {"__eq__": None}),
+    },
+    "surenear.ledger.ledger": {
+        "Ledger": ("(schema, key)", {
+            "put": "(self, record)", "drop": "(self, name)", "pin": "(self)", "unpin": "(self, moment)",
+            "lift": "(self, moment)", "audit": "(self, shard, offer)", "own": "(self, shard, partitions, homes)",
+            "would_take": "(self, offer)", "keeps": "(self, moment)", "live": "(self, moment)", "note_of": "(self, name)",
+            "segment_of": "(self, number)", "owned_by": "(self, number)", "fresh": "(self)", "twin": "(self)",
+        }),
+    },
+    "surenear.disks.disk": {"Disk": ("()", {"ask": "(self, operation)", "crash": "(self, cuts)", "files": "(self)"})},
 }
 
 

@@ -49,23 +49,30 @@ def at_most(a, b):
 
 def answer_of(question, pairs, regions):
     """Return the answer from numbered records that were read and regions that were left out."""
-    most = question.query.most
-    candidates = candidates_of(question, pairs)
-    hits = candidates[:most]
     bounds = [bound_of(question, facts) for facts in regions]
+    return answer_from(question.query.most, in_order(hits_of(question, pairs)), bounds)
+
+
+def hits_of(question, pairs):
+    """Return the hits of the numbered records that pass, in the order of reading."""
+    return [Hit(record.name, number, question.cost(record)) for number, record in pairs if question.passes(record)]
+
+
+def in_order(hits):
+    """Return the different ones of hits, in the order of their ranks."""
+    ordered = sorted(hits, key=lambda hit: (hit.cost, hit.name))
+    # The keys of a dict stay where they were added first.
+    different = {(hit.name, hit.number, hit.cost): hit for hit in ordered}
+    return list(different.values())
+
+
+def answer_from(most, candidates, bounds):
+    """Return the answer with at most that many hits from candidates in order and the bounds of regions."""
+    hits = candidates[:most]
     counting = [bound for bound in bounds if bound.can]
     costs = [hit.cost for hit in candidates[most:]] + [bound.cost for bound in counting]
     exact = all([cannot_change(hits, most, bound) for bound in counting])
     return Answer(hits, least_of(costs), exact)
-
-
-def candidates_of(question, pairs):
-    """Return the different hits of the numbered records that pass, in the order of their ranks."""
-    hits = [Hit(record.name, number, question.cost(record)) for number, record in pairs if question.passes(record)]
-    hits = sorted(hits, key=lambda hit: (hit.cost, hit.name))
-    # The keys of a dict stay where they were added first.
-    different = {(hit.name, hit.number, hit.cost): hit for hit in hits}
-    return list(different.values())
 
 
 def least_of(costs):

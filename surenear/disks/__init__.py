@@ -1,0 +1,1 @@
+"""Disks that may lose what was not synced, and what is kept on them."""

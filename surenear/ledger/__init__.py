@@ -1,0 +1,1 @@
+"""The ledger: what the gateway knows by itself."""

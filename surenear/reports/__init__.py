@@ -1,0 +1,1 @@
+"""Answers that the ledger makes of reports."""
