@@ -39,6 +39,16 @@ FUNCTIONS = {
         "reckon": "(ledger, question, moment, report)",
     },
     "surenear.disks.blocks": {"sum_of": "(numbers)", "block_of": "(numbers)", "read_blocks": "(numbers)"},
+    "surenear.disks.journal": {"log_name": "(number)", "log_number": "(name)", "read_log": "(numbers)"},
+    "surenear.stores.segments": {
+        "segment_file": "(name)", "start_file": "(start)", "read_file_name": "(text)", "pieces_of": "(offer)",
+        "piece_at": "(offer, index)",
+    },
+    "surenear.gateway.catalog": {"news_of": "(before, after, deed)"},
+    "surenear.gateway.deeds": {
+        "deed_code": "(deed)", "catalog_code": "(catalog)", "read_deed": "(numbers)",
+        "read_catalog": "(schema, key, numbers)",
+    },
 }
 CLASSES = {
     "surenear.errors": {"InvalidFilter": ("(fault, place)", {})},
@@ -144,6 +154,54 @@ CLASSES = {
         }),
     },
     "surenear.disks.disk": {"Disk": ("()", {"ask": "(self, operation)", "crash": "(self, cuts)", "files": "(self)"})},
+    "surenear.disks.journal": {
+        "Journal": ("(first)", {
+            "add": "(self, entry)", "turn": "(self, base)", "want": "(self)", "told": "(self, answer)", "up": None,
+            "waiting": None,
+        }),
+    },
+    "surenear.stores.store": {
+        "Store": ("(schema, rules, *, kinds=(), partition=0, walk=0, most=100)", {
+            "want": "(self)", "told": "(self, answer)", "hear": "(self, message)", "seal": "(self)",
+            "merge": "(self, names)", "remind": "(self)", "crash": "(self)", "status": "(self)", "ready": None,
+        }),
+    },
+    "surenear.gateway.catalog": {
+        "Catalog": ("(schema, key, shard)", {
+            "apply": "(self, deed)", "twin": "(self)", "shard_of": "(self, name)", "title_of": "(self, segment)",
+            "segment_named": "(self, shard, name)", "turns": "(self, shard, name, note)",
+        }),
+    },
+    "surenear.gateway.gateway": {
+        "Gateway": ("(schema, key, shard)", {
+            "want": "(self)", "told": "(self, answer)", "write": "(self)", "put": "(self, record)",
+            "drop": "(self, name)", "pin": "(self)", "unpin": "(self, moment)", "route": "(self, low, shard)",
+            "hear": "(self, shard, message)", "ask": "(self, moment, query, budget)", "finish": "(self, number)",
+            "remind": "(self)", "crash": "(self)", "readings": "(self)", "queries": "(self)", "up": None,
+        }),
+    },
+    "surenear.worlds.world": {
+        "World": ("(schema, key, shards, rules, *, kinds=(), partition=0, walk=0, most=100)", {
+            "step_gateway": "(self, *, refuse=False)", "step_shard": "(self, shard, *, refuse=False)",
+            "settle": "(self)", "stop_gateway": "(self, cuts, *, done=False)",
+            "stop_shard": "(self, shard, cuts, *, done=False)", "deliver": "(self, place, *, inward, keep=False)",
+            "lose": "(self, place, *, inward)", "lie": "(self, shard, message)", "put": "(self, record)",
+            "drop": "(self, name)", "pin": "(self)", "unpin": "(self, moment)", "route": "(self, low, shard)",
+            "write": "(self)", "ask": "(self, moment, query, budget)", "finish": "(self, number)",
+            "remind_gateway": "(self)", "remind_shard": "(self, shard)", "seal": "(self, shard)",
+            "merge": "(self, shard, names)", "is_honest": "(self, shard)",
+        }),
+    },
+}
+# The properties; all other attributes that the interface lists are fields.
+PROPERTIES = {
+    ("surenear.basics.ranks", "Rank"): ["pair"],
+    ("surenear.records.schema", "Schema"): ["greatest", "least"],
+    ("surenear.facts.vectors", "Part"): ["after"],
+    ("surenear.regions.offer", "Offer"): ["sound", "write_numbers"],
+    ("surenear.disks.journal", "Journal"): ["up", "waiting"],
+    ("surenear.stores.store", "Store"): ["ready"],
+    ("surenear.gateway.gateway", "Gateway"): ["up"],
 }
 
 
@@ -170,6 +228,14 @@ class InterfaceTest(unittest.TestCase):
                         self.assertIn(method, vars(found))
                         if told is not None:
                             self.assertEqual(str(inspect.signature(vars(found)[method])), told)
+
+    def test_properties(self):
+        for module, classes in CLASSES.items():
+            for name in classes:
+                with self.subTest(module=module, name=name):
+                    found = vars(getattr(importlib.import_module(module), name))
+                    properties = sorted(key for key, told in found.items() if isinstance(told, property))
+                    self.assertEqual(properties, PROPERTIES.get((module, name), []))
 
 
 if __name__ == "__main__":

@@ -1,4 +1,4 @@
-"""Letters, digits and words, as filters and field names know them."""
+"""Letters, digits, words and numbers, as filters, field names and names of files know them."""
 
 
 def is_letter(char):
@@ -16,3 +16,12 @@ def is_word(text):
     if text == "" or not is_letter(text[0]):
         return False
     return all([is_letter(char) or is_digit(char) for char in text])
+
+
+def number_in(text):
+    """Return the number that decimal digits without a leading zero tell, None if a text is anything else."""
+    if text == "" or not all([is_digit(char) for char in text]):
+        return None
+    if text[0] == "0" and len(text) > 1:
+        return None
+    return int(text)

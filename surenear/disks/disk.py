@@ -2,7 +2,10 @@
 
 from surenear.errors import InvalidOperation
 
-WORDS = ("append", "make", "remove", "sync", "read", "names")
+# The operations, and the kind of the answer of each that is not refused.
+ANSWERS = {
+    "append": "done", "make": "done", "remove": "done", "sync": "done", "read": "numbers", "names": "names",
+}
 
 
 class Disk:
@@ -17,7 +20,7 @@ class Disk:
     def ask(self, operation):
         """Do an operation, and return the answer."""
         word = operation[0]
-        if word not in WORDS:
+        if word not in ANSWERS:
             raise InvalidOperation("no disk knows this operation")
         if word == "sync":
             self.histories = {name: states[-1:] for name, states in self.histories.items()}
@@ -62,6 +65,11 @@ class Disk:
         return [
             (name, copy_of(sure), copy_of(seen)) for name, sure, seen in told if sure is not None or seen is not None
         ]
+
+
+def is_done(operation, answer):
+    """Return whether an answer has the kind that the operation has; another one counts as refused."""
+    return answer[0] == ANSWERS[operation[0]]
 
 
 def copy_of(state):

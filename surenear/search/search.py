@@ -70,7 +70,7 @@ class OpenRegion:
         self.shelf = shelf
         self.place = place
         self.bound = bound_of(question, facts)
-        self.far = far_of_centre(question.query.vector, facts)
+        self.walk_goal = walk_goal_of(question.query.vector, facts)
 
     def goal(self):
         """Return what is least for the region that is taken after the walk."""
@@ -80,7 +80,7 @@ class OpenRegion:
         return (1, self.bound.cost, self.bound.name)
 
 
-def far_of_centre(q, facts):
+def walk_goal_of(q, facts):
     """Return what is least for the region that is taken in the walk: the distance of its centre."""
     for fact in facts:
         if isinstance(fact, Parts) and is_centred(fact.parts, len(q)):
@@ -125,7 +125,7 @@ class Search:
         """Return the place, among the open regions, of the one that the next step takes."""
         places = [at for at, region in enumerate(self.opened) if region.bound.can]
         if self.walk > self.steps:
-            goals = [region.far for region in self.opened]
+            goals = [region.walk_goal for region in self.opened]
         else:
             goals = [region.goal() for region in self.opened]
         # The first one of several: it has been open longest.

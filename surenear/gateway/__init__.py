@@ -1,0 +1,1 @@
+"""The gateway: it takes writes, answers queries and talks with shards."""

@@ -1,0 +1,1 @@
+"""Stores: what shards run."""

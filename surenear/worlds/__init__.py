@@ -1,0 +1,1 @@
+"""Worlds: a gateway, shards, their disks, and messages under way."""
