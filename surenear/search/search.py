@@ -70,22 +70,24 @@ class OpenRegion:
         self.shelf = shelf
         self.place = place
         self.bound = bound_of(question, facts)
+        # What is least for the region that the next step takes, in the walk and after it.
         self.walk_goal = walk_goal_of(question.query.vector, facts)
-
-    def goal(self):
-        """Return what is least for the region that is taken after the walk."""
-        # A region without a least cost comes first, whatever its least name.
-        if self.bound.cost is None:
-            return (0, 0, "")
-        return (1, self.bound.cost, self.bound.name)
+        self.bound_goal = bound_goal_of(self.bound)
 
 
 def walk_goal_of(q, facts):
-    """Return what is least for the region that is taken in the walk: the distance of its centre."""
+    """Return the distance of the centre that facts tell; without a centre, what comes after all others."""
     for fact in facts:
         if isinstance(fact, Parts) and is_centred(fact.parts, len(q)):
             return (0, distance(fact.parts[0].centre, q))
     return (1, 0)
+
+
+def bound_goal_of(bound):
+    """Return the least cost and the least name; without a least cost, what comes before all others."""
+    if bound.cost is None:
+        return (0, 0, "")
+    return (1, bound.cost, bound.name)
 
 
 def is_centred(parts, size):
@@ -127,7 +129,7 @@ class Search:
         if self.walk > self.steps:
             goals = [region.walk_goal for region in self.opened]
         else:
-            goals = [region.goal() for region in self.opened]
+            goals = [region.bound_goal for region in self.opened]
         # The first one of several: it has been open longest.
         return min(places, key=lambda at: goals[at])
 
@@ -141,14 +143,14 @@ class Search:
         others = self.opened[:at] + self.opened[at + 1:]
         self.opened = others + self.regions_at(shelf, shelf.inside[region.place])
 
-    def matters(self, region):
-        """Return whether a record of an open region can be one of the first ones."""
-        most = self.question.query.most
-        return region.bound.can and not cannot_change(self.candidates[:most], most, region.bound)
-
     def ended(self):
-        """Return whether no open region matters."""
-        return not any([self.matters(region) for region in self.opened])
+        """Return whether no record of an open region can be one of the first ones."""
+        most = self.question.query.most
+        hits = self.candidates[:most]
+        for region in self.opened:
+            if region.bound.can and not cannot_change(hits, most, region.bound):
+                return False
+        return True
 
     def answer(self):
         """Return the answer from what was read, and from the open regions."""
