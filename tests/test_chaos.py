@@ -8,7 +8,7 @@ from surenear.costs.query import Query
 from surenear.costs.question import Question
 from surenear.errors import NoSuchMoment, NotNow, NotPinned
 from surenear.facts.contents import Counts, Names, Range, Values
-from surenear.facts.vectors import Box, Cell, Norms, Part, Parts
+from surenear.facts.vectors import Box, Cell, Differ, Norms, Part, Parts
 from surenear.gateway.catalog import Catalog
 from surenear.records.marks import mark_of
 from surenear.records.record import Record
@@ -258,13 +258,22 @@ class Chaos:
     def name(self):
         return (self.rng.randint(1, 4), self.rng.randint(0, 4))
 
+    def fact(self):
+        """Any fact, true or false, of any size and of any field."""
+        rng, size = self.rng, self.rng.choice((self.schema.size, self.schema.size, 1, 0, 5))
+        a, b = ([rng.randint(-4, 4) for _ in range(size)] for _ in range(2))
+        field, lack = rng.choice("itfx"), rng.choice(("nobody", "some", "all"))
+        parts = [Part(rng.randint(-1, 2), [rng.randint(-3, 3) for _ in range(rng.randint(0, 2))], rng.randint(0, 40)) for _ in range(rng.randint(0, 3))]
+        return rng.choice((
+            Parts(parts), Parts([Part(0, a, rng.randint(0, 50))]), Cell(a, b), Cell(a, b[:1]), Box(a, b), Box([-4] * size, [4] * size), Box(a, b[:2]),
+            Norms(rng.randint(-1, 5), rng.randint(0, 60)), Differ(a, rng.randint(-1, 4)), Range(field, rng.randint(-1, 2), rng.randint(0, 4), lack=lack),
+            Values(field, rng.sample(["a", "b", "c", True, False, 0, 1, 2], rng.randint(0, 6)), lack=lack),
+            Counts([("u", rng.randint(-1, 20)), ("v", 3), ("v", 1)][:rng.randint(0, 3)]), Names(rng.choice(("", "a", "b")), rng.choice(("b", "n", "~"))),
+        ))
+
     def regions(self):
-        facts = [
-            Box([1] * self.schema.size, [2] * self.schema.size), Norms(3, 9), Parts([Part(0, [1, 1], 1)]), Names("a", "b"),
-            Range("i", 0, 1), Values("t", ["a"]), Counts([("u", 1)]), Cell([0] * self.schema.size, [1] * self.schema.size), Parts([]),
-        ]
         parents = [None, None, 0, 1, 2, 7]
-        return tuple(Region(self.rng.choice(parents[:max(2, at + 1)]), self.rng.sample(facts, self.rng.choice((0, 0, 1))))
+        return tuple(Region(self.rng.choice(parents[:max(2, at + 1)]), [self.fact() for _ in range(self.rng.choice((0, 0, 1, 2)))])
                      for at in range(self.rng.randint(0, 4)))
 
     def entry(self):

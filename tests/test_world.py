@@ -350,6 +350,8 @@ class CallTest(unittest.TestCase):
         answer = world.finish(1)
         self.assertEqual(answer, Answer([Hit("a", 1, 0)], 0, True))
         self.assertEqual(world.answers, [(second, 2, none), (first, 2, answer)])
+        answer.hits.clear()
+        self.assertEqual(world.answers[1], (first, 2, Answer([Hit("a", 1, 0)], 0, True)))
 
     def test_answers_after_a_stop(self):
         world = world_of(7)

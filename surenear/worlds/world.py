@@ -3,6 +3,7 @@
 from surenear.disks.disk import Disk
 from surenear.errors import NotNow
 from surenear.gateway.gateway import Gateway
+from surenear.search.answers import Answer
 from surenear.stores.store import Store
 
 REFUSED = ("refused",)
@@ -149,7 +150,8 @@ class World:
         answer = self.gateway.finish(number)
         moment, query = self.asked[number]
         self.answers = self.answers + [(query, moment, answer)]
-        return answer
+        # The caller may change what it gets, but not what is remembered.
+        return Answer(answer.hits, answer.bound, answer.exact)
 
     def remind_gateway(self):
         """Let the gateway say again what may be lost, if it is up."""
