@@ -310,20 +310,22 @@ class Chaos:
             return (kind, asked, [self.part() for _ in range(self.rng.randint(0, 3))])
         return (kind, self.name())
 
+    def spoiled_part(self, part):
+        """A part with one thing changed: a record is another one or not told, or a region is not told."""
+        pairs, left = list(zip(part.numbers, part.records)), list(part.left)
+        word = self.rng.choice(("another", "another", "not told", "left", "nothing"))
+        if pairs and word in ("another", "not told"):
+            number, told = pairs.pop(self.rng.randrange(len(pairs)))
+            if word == "another":
+                pairs.append((number, record_by(self.rng, self.schema, told.name)))
+        elif left and word == "left":
+            left.pop(self.rng.randrange(len(left)))
+        return ReportPart(part.segment, part.partition, left, [number for number, _ in pairs], [told for _, told in pairs])
+
     def spoiled(self, message):
         """A message with one item changed."""
         if message[0] == "answer":
-            parts = list(message[2])
-            for at, part in enumerate(parts):
-                pairs = list(zip(part.numbers, part.records))
-                if pairs and self.rng.random() < 0.5:
-                    pairs.pop(self.rng.randrange(len(pairs)))
-                if pairs and self.rng.random() < 0.5:
-                    number, told = pairs.pop()
-                    pairs.append((number, record_by(self.rng, self.schema, told.name)))
-                left = [place for place in part.left if self.rng.random() < 0.7]
-                parts[at] = ReportPart(part.segment, part.partition, left, [number for number, _ in pairs], [told for _, told in pairs])
-            return ("answer", message[1], parts)
+            return ("answer", message[1], [self.spoiled_part(part) for part in message[2]])
         if message[0] == "sealed":
             return message[:3] + ((self.regions(),) + message[3][1:],)
         if message[0] == "piece":

@@ -12,7 +12,9 @@ from surenear.disks.journal import read_log
 from surenear.errors import (
     InvalidFilter, InvalidKey, InvalidQuery, InvalidRecord, NoSuchMoment, NoSuchQuery, NotNow, NotPinned, NotUp,
 )
-from surenear.facts.vectors import Norms
+from surenear.facts.contents import Counts, Names, Range, Values
+from surenear.facts.fact import Fact
+from surenear.facts.vectors import Box, Cell, Differ, Norms, Parts
 from surenear.gateway.catalog import Catalog
 from surenear.gateway.deeds import catalog_code, deed_code, read_deed
 from surenear.gateway.gateway import CLOSED, FRESH, LOG, READINGS, TOLD, Gateway
@@ -1019,13 +1021,19 @@ class OtherMessageTest(unittest.TestCase):
             # Of a form that their kind does not have.
             ("sealed",), ("sealed", (2, 0), 1), ("sealed", (2, 0), 1, (REGIONS,), 5), ("sealed", 5, 1, (REGIONS,)), ("sealed", (2,), 1, (REGIONS,)),
             ("sealed", ("a", "b"), 1, (REGIONS,)), ("sealed", (2, 0), "1", (REGIONS,)), ("sealed", (2, 0), 1, 5), ("sealed", (2, 0), 1, (5,)),
-            ("sealed", (2, 0), 1, ((5,),)), ("piece", (1, 0), (1, 1), 0), ("piece", (1, 0), (1, 1), 0, 5), ("piece", (1, 0), (1, 1), 0, (5,)),
+            ("sealed", (2, 0), 1, ((5,),)), ("sealed", (2, 0), 1, ((Region(None, []), Region(0, [Norms(0, 1), Fact()])),)), ("piece", (1, 0), (1, 1), 0), ("piece", (1, 0), (1, 1), 0, 5), ("piece", (1, 0), (1, 1), 0, (5,)),
             ("piece", 1, (1, 1), 0, (entry,)), ("gone",), ("gone", 5), ("gone", (1, 0), 5), ("needs",), ("needs", 5), ("needs", (1, 0), 5),
             ("fetched",), ("fetched", 5), ("fetched", (5,)), ("fetched", ((1,),)), ("fetched", (("a", record("a")),)), ("fetched", ((1, 5),)),
             ("fetched", ((1, record("a")),), 5), ("answer", (1, 1)), ("answer", (1, 1), 5), ("answer", (1, 1), (5,)), ("answer", (1, 1), [], 5),
         ):
             self.assertEqual(gate.gateway.hear(7, message), [], message)
             self.assertEqual((catalog_state(gate.catalog), gate.gateway.readings(), gate.gateway.queries(), gate.gateway.wishes), before)
+
+    def test_facts_of_every_class(self):
+        gate = Gate()
+        facts = [Parts([]), Cell([0], [1]), Box([0], [1]), Norms(0, 1), Differ([0], 1), Range("i", 0, 1), Values("i", []), Counts([]), Names("a", "b")]
+        regions = (Region(None, []), Region(0, facts))
+        self.assertEqual(gate.hear(7, "sealed", (1, 0), 1, (regions,)), [(7, ("read", (1, 0), (1, 1), 0))])
 
     def test_reports_and_pairs_may_be_lists_or_tuples(self):
         gate = Gate()

@@ -1,5 +1,7 @@
 """Which messages of shards have the form of their kind; all others are ignored."""
 
+from surenear.facts.contents import Counts, Names, Range, Values
+from surenear.facts.vectors import Box, Cell, Differ, Norms, Parts
 from surenear.records.record import Record
 from surenear.regions.offer import Entry
 from surenear.regions.region import Region
@@ -40,8 +42,15 @@ def is_name(told):
 
 
 def is_regions(told):
-    """Return whether something is a list of regions."""
-    return is_list(told) and all([isinstance(region, Region) for region in told])
+    """Return whether something is a list of regions whose facts have codes."""
+    return is_list(told) and all([isinstance(region, Region) and has_codes(region.facts) for region in told])
+
+
+def has_codes(facts):
+    """Return whether all facts are of classes that the gateway's disk can keep."""
+    return all([
+        isinstance(fact, (Parts, Cell, Box, Norms, Differ, Range, Values, Counts, Names)) for fact in facts
+    ])
 
 
 def is_numbered(told):
